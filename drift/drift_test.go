@@ -244,3 +244,25 @@ func wantRefused(t *testing.T, n, ppm int) {
 		wantSpan(t, "Age", n, ppm, aged, err, api.Span{}, api.ErrRange)
 	}
 }
+
+// TestGrowTimes: as Grow by the product, and held to the same numbers.
+func TestGrowTimes(t *testing.T) {
+	for _, n := range goodNumbers() {
+		for _, ppm := range goodPpms() {
+			for _, times := range []int{0, 1, 2, 3, 7, 999, 1000} {
+				grow, err := drift.GrowTimes(n, times, ppm)
+				wantNumber(t, "GrowTimes", n, times*ppm, grow, err, up(n, times*ppm, million), api.OK)
+			}
+		}
+	}
+	for _, bad := range []int{math.MinInt, -1, 1001, math.MaxInt} {
+		grow, err := drift.GrowTimes(1, bad, 1)
+		wantNumber(t, "GrowTimes", 1, bad, grow, err, 0, api.ErrRange)
+		grow, err = drift.GrowTimes(1, 3, bad)
+		wantNumber(t, "GrowTimes", 1, bad, grow, err, 0, api.ErrRange)
+	}
+	for _, bad := range []int{math.MinInt, -1, top + 1, math.MaxInt} {
+		grow, err := drift.GrowTimes(bad, 3, 1)
+		wantNumber(t, "GrowTimes", bad, 1, grow, err, 0, api.ErrRange)
+	}
+}
