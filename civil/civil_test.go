@@ -154,6 +154,9 @@ func TestEachDay(t *testing.T) {
 	if n != lastNumber+1 {
 		t.Errorf("there are %d days; want %d", n, lastNumber+1)
 	}
+	if got := civil.Last(); got != lastNumber {
+		t.Errorf("Last: got %d; want %d", got, lastNumber)
+	}
 }
 
 // TestAsTime holds the numbers to a calendar that is not of this project.
