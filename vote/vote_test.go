@@ -55,13 +55,28 @@ func wantSafe(t *testing.T, l []api.Span, bad int, want api.Span, errno api.Errn
 	}
 }
 
-// wantAll: of one fault that all four tell.
+func wantCheck(t *testing.T, l []api.Span, errno api.Errno) {
+	t.Helper()
+	if err := vote.Check(l); plain.Told(err) != errno {
+		t.Errorf("Check(%v): got %v; want %v", l, plain.Told(err), errno)
+	}
+}
+
+// wantAll: of one fault that Check and all four tell.
 func wantAll(t *testing.T, l []api.Span, bad int, errno api.Errno) {
 	t.Helper()
+	wantCheck(t, l, errno)
 	wantMeet(t, l, api.Span{}, errno)
 	wantMost(t, l, api.Span{}, 0, errno)
 	wantLiars(t, l, nil, errno)
 	wantSafe(t, l, bad, api.Span{}, errno)
+}
+
+// TestCheck: of spans that are right nothing is wrong, also where no number is in all of them.
+func TestCheck(t *testing.T) {
+	wantCheck(t, list(4, 11), api.OK)
+	wantCheck(t, list(0, 3, 4, 9, 7, 7), api.OK)
+	wantCheck(t, list(-top, top, -top, -top, top, top), api.OK)
 }
 
 func TestMeet(t *testing.T) {
@@ -206,6 +221,7 @@ func TestNone(t *testing.T) {
 func TestFull(t *testing.T) {
 	l := slices.Repeat(list(0, 9), api.MaxSpans)
 	l[39] = sp(5, 20)
+	wantCheck(t, l, api.OK)
 	wantMeet(t, l, sp(5, 9), api.OK)
 	wantMost(t, l, sp(5, 9), 40, api.OK)
 	wantLiars(t, l, nil, api.OK)
